@@ -45,7 +45,7 @@ func binary(value int64, width int64) string {
 	return fmt.Sprintf("%0*b", int(width), value)
 }
 
-// brokenLists are lists that are not bit lists; each but the last has one wrong element or length.
+// brokenLists are lists that are not bit lists, because of an element or of their length.
 func brokenLists() [][]int64 {
 	full := make([]int64, impl.MaxBits)
 	lists := [][]int64{
