@@ -280,23 +280,72 @@ func TestDecodingByHand(t *testing.T) {
 	isDamaged(t, d, []int64{5, 0}, nil)
 }
 
-// checkBound changes a code word at some indices, and names others that are erased. The erased
-// elements are all wrong, all right, and as it comes.
-func checkBound(t *testing.T, c impl.Code, source *rand.Rand, wrong, erasures []int64) {
+// received is a word with erasures, and the code word that was sent.
+type received struct {
+	word, erasures, sent []int64
+}
+
+// receivedWords are a code word that is changed at some indices, and others that are erased. The
+// erased elements are all right, all wrong, and as it comes.
+func receivedWords(t *testing.T, c impl.Code, source *rand.Rand, wrong, erasures []int64) []received {
 	t.Helper()
 	sent := someCodeWord(t, c, source)
 	word := changedAt(c, source, sent, wrong)
-	correctsTo(t, c, word, erasures, sent)
 	if len(erasures) == 0 {
-		return
+		return []received{{word, erasures, sent}}
 	}
-	correctsTo(t, c, changedAt(c, source, word, erasures), erasures, sent)
 	mixed := slices.Clone(word)
 	for _, i := range erasures {
 		mixed[i] = source.Int63n(oracleSize(c.Field))
 	}
 	mixed[erasures[0]] = sent[erasures[0]]
-	correctsTo(t, c, mixed, erasures, sent)
+	return []received{{word, erasures, sent}, {changedAt(c, source, word, erasures), erasures, sent}, {mixed, erasures, sent}}
+}
+
+// counts are those of errors and erasures.
+type counts struct {
+	wrong, erased int64
+}
+
+// countsWithinTheBound are all that the bound allows.
+func countsWithinTheBound(c impl.Code) []counts {
+	var all []counts
+	for wrong := int64(0); 2*wrong <= c.Checks; wrong++ {
+		for erased := int64(0); 2*wrong+erased <= c.Checks; erased++ {
+			all = append(all, counts{wrong, erased})
+		}
+	}
+	return all
+}
+
+// receivedJustBeyondTheBound have a damage that exceeds the bound by one.
+func receivedJustBeyondTheBound(t *testing.T, c impl.Code, source *rand.Rand) []received {
+	t.Helper()
+	var all []received
+	step := 1 + c.Checks/12
+	for wrong := int64(0); 2*wrong <= c.Checks+1; wrong += step {
+		erased := c.Checks + 1 - 2*wrong
+		if wrong+erased <= c.Length {
+			a, b := halves(c, source, wrong, erased)
+			all = append(all, receivedWords(t, c, source, a, b)...)
+		}
+	}
+	return all
+}
+
+func receivedFarBeyondTheBound(t *testing.T, c impl.Code, source *rand.Rand, erased int64) received {
+	t.Helper()
+	wrong := min(c.Length-erased, (c.Checks-erased)/2+1+source.Int63n(c.Checks+1))
+	a, b := halves(c, source, wrong, erased)
+	return receivedWords(t, c, source, a, b)[0]
+}
+
+// checkBound checks a code word that is changed at some indices, and where others are erased.
+func checkBound(t *testing.T, c impl.Code, source *rand.Rand, wrong, erasures []int64) {
+	t.Helper()
+	for _, x := range receivedWords(t, c, source, wrong, erasures) {
+		correctsTo(t, c, x.word, x.erasures, x.sent)
+	}
 }
 
 // Promise 5: a word within the bound is corrected to what was sent, for every number of errors and
@@ -308,12 +357,10 @@ func TestWordsWithinTheBound(t *testing.T) {
 		if c.Checks > 12 {
 			continue
 		}
-		for wrong := int64(0); 2*wrong <= c.Checks; wrong++ {
-			for erased := int64(0); 2*wrong+erased <= c.Checks; erased++ {
-				for range 3 {
-					a, b := halves(c, source, wrong, erased)
-					checkBound(t, c, source, a, b)
-				}
+		for _, n := range countsWithinTheBound(c) {
+			for range 3 {
+				a, b := halves(c, source, n.wrong, n.erased)
+				checkBound(t, c, source, a, b)
 			}
 		}
 	}
@@ -324,18 +371,13 @@ func TestWordsWithinTheBoundOfGreatestCodes(t *testing.T) {
 		t.Run(strconv.FormatInt(oracleSize(c.Field), 10), func(t *testing.T) {
 			t.Parallel()
 			source := rand.New(rand.NewSource(83))
-			for wrong := int64(0); 2*wrong <= c.Checks; wrong++ {
-				for erased := int64(0); 2*wrong+erased <= c.Checks; erased++ {
-					a, b := halves(c, source, wrong, erased)
-					sent := someCodeWord(t, c, source)
-					word := changedAt(c, source, sent, a)
-					for _, i := range b {
-						word[i] = source.Int63n(oracleSize(c.Field))
-					}
-					corrected, indices, code := impl.CorrectWord(c, word, b)
-					if code != impl.ErrNone || !slices.Equal(corrected, sent) || !slices.Equal(indices, oracleDifferences(word, sent)) {
-						t.Fatal("CorrectWord", c, word, b, "yields", corrected, indices, code, "and not", sent)
-					}
+			for _, n := range countsWithinTheBound(c) {
+				a, b := halves(c, source, n.wrong, n.erased)
+				words := receivedWords(t, c, source, a, b)
+				x := words[len(words)-1]
+				corrected, indices, code := impl.CorrectWord(c, x.word, b)
+				if code != impl.ErrNone || !slices.Equal(corrected, x.sent) || !slices.Equal(indices, oracleDifferences(x.word, x.sent)) {
+					t.Fatal("CorrectWord", c, x.word, b, "yields", corrected, indices, code, "and not", x.sent)
 				}
 			}
 		})
@@ -390,17 +432,8 @@ func TestWordsJustBeyondTheBound(t *testing.T) {
 	t.Parallel()
 	source := rand.New(rand.NewSource(86))
 	for _, c := range decodedCodes() {
-		step := 1 + c.Checks/12
-		for wrong := int64(0); 2*wrong <= c.Checks+1; wrong += step {
-			erased := c.Checks + 1 - 2*wrong
-			if wrong+erased > c.Length {
-				continue
-			}
-			a, b := halves(c, source, wrong, erased)
-			sent := someCodeWord(t, c, source)
-			word := changedAt(c, source, sent, a)
-			isDamaged(t, c, word, b)
-			isDamaged(t, c, changedAt(c, source, word, b), b)
+		for _, x := range receivedJustBeyondTheBound(t, c, source) {
+			isDamaged(t, c, x.word, x.erasures)
 		}
 	}
 }
@@ -491,18 +524,22 @@ func TestCorrectWordAgainstASearch(t *testing.T) {
 	}
 }
 
-// Longer words with few messages: here words far from every code word are common.
-func TestCorrectWordAgainstASearchOfLongWords(t *testing.T) {
-	t.Parallel()
-	source := rand.New(rand.NewSource(89))
-	for _, c := range []impl.Code{
+// sparseCodes have longer words with few messages: here words far from every code word are common.
+func sparseCodes() []impl.Code {
+	return []impl.Code{
 		{Field: impl.Field{Prime: 7, Power: 1, Poly: 3}, Length: 6, Checks: 4},
 		{Field: impl.Field{Prime: 7, Power: 1, Poly: 3}, Length: 6, Checks: 5},
 		{Field: impl.Field{Prime: 2, Power: 3, Poly: 11}, Length: 7, Checks: 5},
 		{Field: impl.Field{Prime: 2, Power: 3, Poly: 13}, Length: 7, Checks: 6},
 		{Field: impl.Field{Prime: 11, Power: 1, Poly: 2}, Length: 8, Checks: 6},
 		{Field: impl.Field{Prime: 13, Power: 1, Poly: 2}, Length: 9, Checks: 7},
-	} {
+	}
+}
+
+func TestCorrectWordAgainstASearchOfSparseCodes(t *testing.T) {
+	t.Parallel()
+	source := rand.New(rand.NewSource(89))
+	for _, c := range sparseCodes() {
 		s := searchedCode{code: c}
 		for _, message := range allWords(c.Field, c.Length-c.Checks) {
 			s.words = append(s.words, goodWord(t, "EncodeWord", c)(impl.EncodeWord(c, message)))
@@ -523,20 +560,16 @@ func TestWordsBeyondTheBound(t *testing.T) {
 	lost, other := 0, 0
 	for _, c := range decodedCodes() {
 		for range 8 {
-			sent := someCodeWord(t, c, source)
-			erased := source.Int63n(c.Checks + 1)
-			wrong := min(c.Length-erased, (c.Checks-erased)/2+1+source.Int63n(c.Checks+1))
-			a, b := halves(c, source, wrong, erased)
-			word := changedAt(c, source, sent, a)
-			corrected, found := correct(t, c, word, b)
+			x := receivedFarBeyondTheBound(t, c, source, source.Int63n(c.Checks+1))
+			corrected, found := correct(t, c, x.word, x.erasures)
 			if !found {
 				lost++
 				continue
 			}
 			if !oracleCodeWord(c, corrected) {
-				t.Fatal("CorrectWord", c, word, b, "yields", corrected)
+				t.Fatal("CorrectWord", c, x.word, x.erasures, "yields", corrected)
 			}
-			if !slices.Equal(corrected, sent) {
+			if !slices.Equal(corrected, x.sent) {
 				other++
 			}
 		}
