@@ -294,7 +294,7 @@ func TestNoPolynomialHasALesserLength(t *testing.T) {
 		count := min(most, 4)
 		for _, list := range allWords(f, count) {
 			length := goodLength(t, f, list)
-			for _, p := range polynomialsUpTo(f, int(min(length, 3))) {
+			for _, p := range polynomialsUpTo(f, int(length)) {
 				if impl.IsSatisfied(f, list, p, length-1) {
 					t.Fatal("IsSatisfied", f, list, p, length-1, "although the length is", length)
 				}
