@@ -2,7 +2,9 @@ package tests
 
 import (
 	"math"
+	"math/rand"
 	"slices"
+	"sync"
 	"testing"
 )
 
@@ -73,4 +75,29 @@ func returns(t *testing.T, what string, call func()) {
 		}
 	}()
 	call()
+}
+
+// answersStay fails if a call has another answer in another order of the calls, or beside others at
+// the same time.
+func answersStay(t *testing.T, source *rand.Rand, calls []func() string) {
+	t.Helper()
+	var first []string
+	for _, call := range calls {
+		first = append(first, call())
+	}
+	source.Shuffle(len(calls), func(i, j int) {
+		calls[i], calls[j] = calls[j], calls[i]
+		first[i], first[j] = first[j], first[i]
+	})
+	var together sync.WaitGroup
+	for range 4 {
+		together.Go(func() {
+			for i, call := range calls {
+				if again := call(); again != first[i] {
+					t.Error("first", first[i], "and then", again)
+				}
+			}
+		})
+	}
+	together.Wait()
 }

@@ -6,7 +6,6 @@ import (
 	"math/rand"
 	"slices"
 	"strconv"
-	"sync"
 	"testing"
 
 	"loop.example/g00879/impl"
@@ -999,23 +998,5 @@ func TestFormatsKeepNoState(t *testing.T) {
 			return formatAnswers(impl.FormatCode{Data: c.Data, Length: c.Length}, value, word, word)
 		})
 	}
-	var first []string
-	for _, call := range calls {
-		first = append(first, call())
-	}
-	source.Shuffle(len(calls), func(i, j int) {
-		calls[i], calls[j] = calls[j], calls[i]
-		first[i], first[j] = first[j], first[i]
-	})
-	var together sync.WaitGroup
-	for range 4 {
-		together.Go(func() {
-			for i, call := range calls {
-				if again := call(); again != first[i] {
-					t.Error("first", first[i], "and then", again)
-				}
-			}
-		})
-	}
-	together.Wait()
+	answersStay(t, source, calls)
 }
