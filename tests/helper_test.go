@@ -3,9 +3,11 @@ package tests
 import (
 	"math"
 	"math/rand"
+	"runtime"
 	"slices"
 	"sync"
 	"testing"
+	"time"
 )
 
 // filler is no bit and no element of a field, so that a stray read or write of it shows.
@@ -100,4 +102,17 @@ func answersStay(t *testing.T, source *rand.Rand, calls []func() string) {
 		})
 	}
 	together.Wait()
+}
+
+// runsNoMore fails if more goroutines are left than there were before. One that has nothing more to
+// do may take a moment to end.
+func runsNoMore(t *testing.T, before int) {
+	t.Helper()
+	for range 2000 {
+		if runtime.NumGoroutine() <= before {
+			return
+		}
+		time.Sleep(time.Millisecond)
+	}
+	t.Error(runtime.NumGoroutine()-before, "goroutines are left")
 }

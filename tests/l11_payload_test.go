@@ -8,7 +8,6 @@ import (
 	"strconv"
 	"strings"
 	"testing"
-	"time"
 
 	"loop.example/g00879/impl"
 )
@@ -104,7 +103,13 @@ func oracleRead(t *testing.T, f impl.Field, elements []int64) ([]impl.Segment, i
 	if code := oracleElementsError(f, elements); code != impl.ErrNone {
 		return nil, code
 	}
-	text := elementsText(f, elements)
+	return oracleSegments(t, elementsText(f, elements))
+}
+
+// oracleSegments are read from a text of bits until ModeEnd, or until fewer bits than those of a mode
+// are left.
+func oracleSegments(t *testing.T, text string) ([]impl.Segment, int64) {
+	t.Helper()
 	list := bitsOf(t, text)
 	var segments []impl.Segment
 	for at := 0; len(text)-at > 2 && text[at:at+3] != "000"; {
@@ -1228,12 +1233,5 @@ func TestPayloadsLeaveNothingRunning(t *testing.T) {
 			payloadAnswers(f, message, 900, make([]int64, 900), make([]int64, impl.MaxBits+1))
 		}
 	}
-	// A goroutine that has nothing more to do may take a moment to end.
-	for range 2000 {
-		if runtime.NumGoroutine() <= before {
-			return
-		}
-		time.Sleep(time.Millisecond)
-	}
-	t.Error(runtime.NumGoroutine()-before, "goroutines are left")
+	runsNoMore(t, before)
 }
