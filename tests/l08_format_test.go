@@ -286,6 +286,19 @@ func changed(source *rand.Rand, word []int64, wrong, unknown int64) []int64 {
 	return list
 }
 
+// changedInFront is a word whose first bits are wrong, and whose next ones are unknown.
+func changedInFront(word []int64, wrong, unknown int) []int64 {
+	list := slices.Clone(word)
+	for i := range list {
+		if i < wrong {
+			list[i] = 1 - list[i]
+		} else if i < wrong+unknown {
+			list[i] = -1
+		}
+	}
+	return list
+}
+
 // everyList calls visit with every list of so many elements -1, 0 and 1.
 func everyList(length int64, visit func(list []int64)) {
 	list := slices.Repeat([]int64{-1}, int(length))
@@ -765,17 +778,7 @@ func TestFormatShareAtAllCounts(t *testing.T) {
 // The cases of the document one by one: the copies are words of 3 and of 20.
 func TestFormatShareByHand(t *testing.T) {
 	three, twenty := oracleFormatWord(t, standard, 3), oracleFormatWord(t, standard, 20)
-	hit := func(word []int64, wrong, unknown int) []int64 {
-		list := slices.Clone(word)
-		for i := range list {
-			if i < wrong {
-				list[i] = 1 - list[i]
-			} else if i < wrong+unknown {
-				list[i] = -1
-			}
-		}
-		return list
-	}
+	hit := changedInFront
 	for _, x := range []struct {
 		wrong, unknown, wrongToo, unknownToo int
 		want                                 int64
