@@ -393,7 +393,8 @@ var firstCalls = map[string]func() bool{
 	},
 }
 
-// The library is built by the first call of a process, so that each first call has a process of its own.
+// The first call of Library in a process builds what is kept of it: the first calls, and those behind them,
+// have the same results, whichever comes first. Each first call has a process of its own.
 func TestFirstCalls(t *testing.T) {
 	const variable = "FIRST_CALL_OF_LIBRARY"
 	if name := os.Getenv(variable); name != "" {
